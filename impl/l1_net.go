@@ -1,0 +1,165 @@
+package impl
+
+import (
+	"iter"
+	"slices"
+	"strconv"
+	"strings"
+)
+
+// Limits of nets; Far is what nothing costs.
+const (
+	NodesMax = 8
+	ArcsMax  = 16
+	CostMax  = 99
+	LoadMax  = 9
+	Far      = 99999
+)
+
+// netWord begins the encoding of a net.
+const netWord = "net "
+
+// Arc leads from a node to another one, with a cost, a toll, and what may go over it.
+type Arc struct {
+	From int
+	To   int
+	Cost int
+	Toll int
+	Load int
+}
+
+// Net is how many nodes there are, and arcs.
+type Net struct {
+	Nodes int
+	Arcs  []Arc
+}
+
+// NetOk says whether a net is ok.
+func NetOk(n Net) bool {
+	if n.Nodes < 1 || n.Nodes > NodesMax || len(n.Arcs) > ArcsMax {
+		return false
+	}
+	for _, a := range n.Arcs {
+		if !arcOk(a, n.Nodes) {
+			return false
+		}
+	}
+	return true
+}
+
+// NetOut is arcs that begin at a node.
+func NetOut(n Net, node int) []int {
+	if !NetOk(n) {
+		return nil
+	}
+	return slices.Collect(arcsFrom(n, node))
+}
+
+// NetBack is a net with all arcs turned round.
+func NetBack(n Net) Net {
+	if !NetOk(n) {
+		return Net{}
+	}
+	back := Net{Nodes: n.Nodes, Arcs: slices.Clone(n.Arcs)}
+	for i, a := range n.Arcs {
+		back.Arcs[i].From, back.Arcs[i].To = a.To, a.From
+	}
+	return back
+}
+
+// NetPut writes a net.
+func NetPut(n Net) string {
+	if !NetOk(n) {
+		return ""
+	}
+	var b strings.Builder
+	b.WriteString(netWord + strconv.Itoa(n.Nodes) + "\n")
+	for _, a := range n.Arcs {
+		b.WriteString(arcPut(a))
+	}
+	return b.String()
+}
+
+// NetGet reads a net.
+func NetGet(s string) (Net, bool) {
+	head, rest, _ := strings.Cut(s, "\n")
+	word, found := strings.CutPrefix(head, netWord)
+	nodes, err := strconv.Atoi(word)
+	if !found || err != nil {
+		return Net{}, false
+	}
+	n := Net{Nodes: nodes}
+	for rest != "" && len(n.Arcs) <= ArcsMax {
+		var line string
+		line, rest, _ = strings.Cut(rest, "\n")
+		a, ok := arcGet(line)
+		if !ok {
+			return Net{}, false
+		}
+		n.Arcs = append(n.Arcs, a)
+	}
+	// A net has exactly one encoding: comparing with it rejects signs,
+	// leading zeros and a missing newline, which are read above.
+	if !NetOk(n) || NetPut(n) != s {
+		return Net{}, false
+	}
+	return n, true
+}
+
+// arcOk says whether an arc is ok in a net with so many nodes.
+func arcOk(a Arc, nodes int) bool {
+	return within(a.From, nodes-1) && within(a.To, nodes-1) && a.From != a.To &&
+		within(a.Cost, CostMax) && within(a.Toll, CostMax) && within(a.Load, LoadMax)
+}
+
+// arcPut writes an arc as a line.
+func arcPut(a Arc) string {
+	return strconv.Itoa(a.From) + " " + strconv.Itoa(a.To) + " " + strconv.Itoa(a.Cost) + " " +
+		strconv.Itoa(a.Toll) + " " + strconv.Itoa(a.Load) + "\n"
+}
+
+// arcGet reads an arc from a line without its newline. It takes more than arcPut writes.
+func arcGet(line string) (Arc, bool) {
+	var numbers [5]int
+	words := strings.Split(line, " ")
+	if len(words) != len(numbers) {
+		return Arc{}, false
+	}
+	for i, word := range words {
+		number, err := strconv.Atoi(word)
+		if err != nil {
+			return Arc{}, false
+		}
+		numbers[i] = number
+	}
+	return Arc{From: numbers[0], To: numbers[1], Cost: numbers[2], Toll: numbers[3], Load: numbers[4]}, true
+}
+
+// arcsFrom yields the arcs that begin at a node, in ascending order.
+func arcsFrom(n Net, node int) iter.Seq[int] {
+	return func(yield func(int) bool) {
+		for i, a := range n.Arcs {
+			if a.From == node && !yield(i) {
+				return
+			}
+		}
+	}
+}
+
+// within says whether a number is in 0..most.
+func within(number int, most int) bool {
+	return number >= 0 && number <= most
+}
+
+// netHas says whether a net is ok and has all of these nodes.
+func netHas(n Net, nodes ...int) bool {
+	if !NetOk(n) {
+		return false
+	}
+	for _, node := range nodes {
+		if !within(node, n.Nodes-1) {
+			return false
+		}
+	}
+	return true
+}
