@@ -1,162 +1,280 @@
 package tests
 
 import (
+	"reflect"
 	"slices"
 	"testing"
 
 	"loop.example/waymark/impl"
 )
 
-// given are arguments whose slices have spare capacity that holds marks, so that writing into it shows.
+// given are arguments for all functions.
 type given struct {
 	net   impl.Net
 	walk  []int
 	rest  []int
 	nodes [2]int
+	turns []impl.Turn
+	stair []impl.Step
+	other []impl.Step
+	steps []impl.Step
+	times [3]int
 }
 
-// call is a function of the package; its result is returned as its slices, of arcs or of numbers.
+// call is a function of the package, and which of the given arguments it takes.
 type call struct {
 	name string
-	run  func(g given) ([]impl.Arc, []int)
+	run  any
+	args func(g given) []any
 }
 
 func calls() []call {
+	return slices.Concat(netCalls(), turnCalls(), stairCalls())
+}
+
+// netCalls are the functions of chapters 1 to 3.
+func netCalls() []call {
 	return []call{
-		{"NetOk", func(g given) ([]impl.Arc, []int) { impl.NetOk(g.net); return nil, nil }},
-		{"NetOut", func(g given) ([]impl.Arc, []int) { return nil, impl.NetOut(g.net, g.nodes[0]) }},
-		{"NetBack", func(g given) ([]impl.Arc, []int) { return impl.NetBack(g.net).Arcs, nil }},
-		{"NetPut", func(g given) ([]impl.Arc, []int) { impl.NetPut(g.net); return nil, nil }},
-		{"NetGet", func(g given) ([]impl.Arc, []int) { n, _ := impl.NetGet(impl.NetPut(g.net)); return n.Arcs, nil }},
-		{"WalkOk", func(g given) ([]impl.Arc, []int) { impl.WalkOk(g.net, g.walk); return nil, nil }},
-		{"WalkCost", func(g given) ([]impl.Arc, []int) { impl.WalkCost(g.net, g.walk); return nil, nil }},
-		{"WalkNodes", func(g given) ([]impl.Arc, []int) { return nil, impl.WalkNodes(g.net, g.walk) }},
-		{"WalkJoin", func(g given) ([]impl.Arc, []int) { w, _ := impl.WalkJoin(g.net, g.walk, g.rest); return nil, w }},
-		{"WalkJoin, nothing first", func(g given) ([]impl.Arc, []int) { w, _ := impl.WalkJoin(g.net, nil, g.walk); return nil, w }},
-		{"WalkJoin, nothing last", func(g given) ([]impl.Arc, []int) { w, _ := impl.WalkJoin(g.net, g.walk, nil); return nil, w }},
-		{"WalkPlain", func(g given) ([]impl.Arc, []int) { return nil, impl.WalkPlain(g.net, g.walk) }},
-		{"WalkPlain of the rest", func(g given) ([]impl.Arc, []int) { return nil, impl.WalkPlain(g.net, g.rest) }},
-		{"NearAll", func(g given) ([]impl.Arc, []int) { return nil, impl.NearAll(g.net, g.nodes[0]) }},
-		{"NearTo", func(g given) ([]impl.Arc, []int) { return nil, impl.NearTo(g.net, g.nodes[0]) }},
-		{"NearWalk", func(g given) ([]impl.Arc, []int) { w, _ := impl.NearWalk(g.net, g.nodes[0], g.nodes[1]); return nil, w }},
-		{"NearTree", func(g given) ([]impl.Arc, []int) { return nil, impl.NearTree(g.net, g.nodes[0]) }},
+		{"NetOk", impl.NetOk, func(g given) []any { return []any{g.net} }},
+		{"NetOut", impl.NetOut, func(g given) []any { return []any{g.net, g.nodes[0]} }},
+		{"NetBack", impl.NetBack, func(g given) []any { return []any{g.net} }},
+		{"NetPut", impl.NetPut, func(g given) []any { return []any{g.net} }},
+		{"NetGet", impl.NetGet, func(g given) []any { return []any{impl.NetPut(g.net)} }},
+		{"WalkOk", impl.WalkOk, func(g given) []any { return []any{g.net, g.walk} }},
+		{"WalkCost", impl.WalkCost, func(g given) []any { return []any{g.net, g.walk} }},
+		{"WalkNodes", impl.WalkNodes, func(g given) []any { return []any{g.net, g.walk} }},
+		{"WalkJoin", impl.WalkJoin, func(g given) []any { return []any{g.net, g.walk, g.rest} }},
+		{"WalkJoin, nothing first", impl.WalkJoin, func(g given) []any { return []any{g.net, []int{}, g.walk} }},
+		{"WalkJoin, nothing last", impl.WalkJoin, func(g given) []any { return []any{g.net, g.walk, []int{}} }},
+		{"WalkPlain", impl.WalkPlain, func(g given) []any { return []any{g.net, g.walk} }},
+		{"WalkPlain of the rest", impl.WalkPlain, func(g given) []any { return []any{g.net, g.rest} }},
+		{"NearAll", impl.NearAll, func(g given) []any { return []any{g.net, g.nodes[0]} }},
+		{"NearTo", impl.NearTo, func(g given) []any { return []any{g.net, g.nodes[0]} }},
+		{"NearWalk", impl.NearWalk, func(g given) []any { return []any{g.net, g.nodes[0], g.nodes[1]} }},
+		{"NearTree", impl.NearTree, func(g given) []any { return []any{g.net, g.nodes[0]} }},
 	}
 }
 
-// withSpare is a copy of a list with marks in its spare capacity.
-func withSpare[T any](list []T, mark T) []T {
-	spare := slices.Concat(list, slices.Repeat([]T{mark}, 40))
-	return spare[:len(list)]
-}
-
-// whole is a copy of a list with its spare capacity.
-func whole[T any](list []T) []T {
-	return slices.Clone(list[:cap(list)])
-}
-
-// fill overwrites a list and its spare capacity.
-func fill[T any](list []T, mark T) {
-	for i := range list[:cap(list)] {
-		list[:cap(list)][i] = mark
+// turnCalls are the functions of chapter 4.
+func turnCalls() []call {
+	return []call{
+		{"TurnsOk", impl.TurnsOk, func(g given) []any { return []any{g.net, g.turns} }},
+		{"TurnWalk", impl.TurnWalk, func(g given) []any { return []any{g.net, g.turns, g.walk} }},
+		{"TurnAll", impl.TurnAll, func(g given) []any { return []any{g.net, g.turns, g.nodes[0]} }},
+		{"TurnNet", impl.TurnNet, func(g given) []any { return []any{g.net, g.turns} }},
 	}
 }
 
-var spoiltArc = impl.Arc{From: -7, To: -7, Cost: -7, Toll: -7, Load: -7}
-
-// prepare copies arguments into memory of their own.
-func prepare(g given) given {
-	mark := impl.Arc{From: -5, To: -5, Cost: -5, Toll: -5, Load: -5}
-	g.net.Arcs = withSpare(g.net.Arcs, mark)
-	g.walk = withSpare(g.walk, -5)
-	g.rest = withSpare(g.rest, -5)
-	return g
-}
-
-// snapshot is a copy of arguments with all their spare capacity.
-func snapshot(g given) given {
-	g.net.Arcs, g.walk, g.rest = whole(g.net.Arcs), whole(g.walk), whole(g.rest)
-	return g
-}
-
-// unchanged says whether arguments are as they were, and their spare capacity too.
-func unchanged(g given, before given) bool {
-	now := snapshot(g)
-	return sameNet(now.net, before.net) && slices.Equal(now.walk, before.walk) && slices.Equal(now.rest, before.rest)
+// stairCalls are the functions of chapter 5.
+func stairCalls() []call {
+	return []call{
+		{"StairOk", impl.StairOk, func(g given) []any { return []any{g.stair} }},
+		{"StairAt", impl.StairAt, func(g given) []any { return []any{g.stair, g.times[0]} }},
+		{"StairOf", impl.StairOf, func(g given) []any { return []any{g.steps} }},
+		{"StairOf a stair", impl.StairOf, func(g given) []any { return []any{g.stair} }},
+		{"StairLink", impl.StairLink, func(g given) []any { return []any{g.stair, g.other} }},
+		{"StairLink, nothing first", impl.StairLink, func(g given) []any { return []any{[]impl.Step{}, g.other} }},
+		{"StairLink, nothing last", impl.StairLink, func(g given) []any { return []any{g.stair, []impl.Step{}} }},
+		{"StairBest", impl.StairBest, func(g given) []any { return []any{g.stair, g.other} }},
+		{"StairBest, nothing first", impl.StairBest, func(g given) []any { return []any{[]impl.Step{}, g.other} }},
+		{"StairBest, nothing last", impl.StairBest, func(g given) []any { return []any{g.stair, []impl.Step{}} }},
+		{"StairLast", impl.StairLast, func(g given) []any { return []any{g.stair, g.times[0]} }},
+		{"StairWalk", impl.StairWalk, func(g given) []any { return []any{g.times[0], g.times[1], g.times[2]} }},
+	}
 }
 
 // givens are arguments, with walks that have a common node, and some that are invalid.
 func givens() []given {
 	r := source()
+	stairs := validStairs()
 	var list []given
-	for _, n := range validNets()[:60] {
+	for i, n := range validNets()[:60] {
 		w := wander(r, n, 0, impl.WalkMax)
 		at := r.IntN(len(w) + 1)
-		list = append(list, given{n, w[:at], w[at:], [2]int{0, n.Nodes - 1}})
+		list = append(list, given{
+			net: n, walk: w[:at], rest: w[at:], nodes: [2]int{0, n.Nodes - 1}, turns: someTurns(r, n, impl.TurnsMax),
+			stair: stairs[i], other: stairs[i+1], steps: scatteredSteps(r, i%9, impl.TimeMax), times: [3]int{i, 2 * i, 1 + i},
+		})
 	}
 	list = append(list,
-		given{example(), []int{0, 1, 3}, []int{4, 2}, [2]int{0, 3}},
-		given{example(), []int{0, 9}, []int{-1}, [2]int{4, 0}},
+		given{net: example(), walk: []int{0, 1, 3}, rest: []int{4, 2}, nodes: [2]int{0, 3}, turns: exampleTurns()},
+		given{net: example(), walk: []int{0, 9}, rest: []int{-1}, nodes: [2]int{4, 0}, turns: []impl.Turn{{In: 0, Out: 3}}},
 	)
 	for _, n := range invalidNets() {
-		list = append(list, given{n, []int{0}, []int{1}, [2]int{0, 1}})
+		list = append(list, given{net: n, walk: []int{0}, rest: []int{1}, nodes: [2]int{0, 1}, turns: exampleTurns()})
+	}
+	for _, s := range invalidStairs() {
+		list = append(list, given{stair: s, other: stairs[1], steps: s}, given{stair: stairs[1], other: s, steps: s})
 	}
 	return list
 }
 
-// result is a copy of what a call returned.
-type result struct {
-	arcs    []impl.Arc
-	numbers []int
+// copied is a copy of a value in memory of its own, in which every slice is what remake makes of it.
+func copied(v reflect.Value, remake func(v reflect.Value) reflect.Value) reflect.Value {
+	c := reflect.New(v.Type()).Elem()
+	switch v.Kind() {
+	case reflect.Slice:
+		c.Set(remake(v))
+		for i := range c.Len() {
+			c.Index(i).Set(copied(c.Index(i), remake))
+		}
+	case reflect.Struct:
+		for i := range v.NumField() {
+			c.Field(i).Set(copied(v.Field(i), remake))
+		}
+	default:
+		c.Set(v)
+	}
+	return c
 }
 
-func (r result) same(arcs []impl.Arc, numbers []int) bool {
-	return slices.Equal(arcs, r.arcs) && slices.Equal(numbers, r.numbers)
+// exact is a copy of a slice.
+func exact(v reflect.Value) reflect.Value {
+	return reflect.AppendSlice(reflect.MakeSlice(v.Type(), 0, v.Len()), v)
 }
 
-// eachCall runs every function with all arguments, then a test with the arguments, how they were before, and the result.
-func eachCall(t *testing.T, test func(c call, g given, before given, arcs []impl.Arc, numbers []int) bool) {
+// wide is a copy of a slice that is as long as its capacity.
+func wide(v reflect.Value) reflect.Value {
+	return exact(v.Slice(0, v.Cap()))
+}
+
+// roomy is a copy of a slice with marks in its spare capacity, so that writing into it shows.
+func roomy(v reflect.Value) reflect.Value {
+	c := reflect.MakeSlice(v.Type(), v.Len()+40, v.Len()+40)
+	mark(c)
+	reflect.Copy(c, v)
+	return c.Slice(0, v.Len())
+}
+
+// mark overwrites a value, and all that its slices hold, their spare capacity too.
+func mark(v reflect.Value) {
+	switch v.Kind() {
+	case reflect.Slice:
+		for i := range v.Cap() {
+			mark(v.Slice(0, v.Cap()).Index(i))
+		}
+	case reflect.Struct:
+		for i := range v.NumField() {
+			mark(v.Field(i))
+		}
+	case reflect.Int:
+		v.SetInt(-7)
+	case reflect.Bool:
+		v.SetBool(true)
+	case reflect.String:
+		v.SetString("mark")
+	}
+}
+
+// copies are copies of values, their slices made by remake.
+func copies(values []reflect.Value, remake func(v reflect.Value) reflect.Value) []any {
+	var list []any
+	for _, v := range values {
+		list = append(list, copied(v, remake).Interface())
+	}
+	return list
+}
+
+// span is a piece of memory.
+type span struct {
+	from uintptr
+	to   uintptr
+}
+
+// spans are the memory of all slices of a value, with their spare capacity.
+func spans(v reflect.Value) []span {
+	var list []span
+	switch v.Kind() {
+	case reflect.Slice:
+		size := uintptr(v.Cap()) * v.Type().Elem().Size()
+		if size > 0 {
+			list = append(list, span{v.Pointer(), v.Pointer() + size})
+		}
+		for i := range v.Cap() {
+			list = append(list, spans(v.Slice(0, v.Cap()).Index(i))...)
+		}
+	case reflect.Struct:
+		for i := range v.NumField() {
+			list = append(list, spans(v.Field(i))...)
+		}
+	}
+	return list
+}
+
+// spansOf are the memory of all slices of values.
+func spansOf(values []reflect.Value) []span {
+	var list []span
+	for _, v := range values {
+		list = append(list, spans(v)...)
+	}
+	return list
+}
+
+// shared says whether two pieces of memory overlap.
+func shared(a span, b span) bool {
+	return a.from < b.to && b.from < a.to
+}
+
+// eachCall runs every function with all arguments, then a test with the arguments, how they were before, and the results.
+func eachCall(t *testing.T, test func(c call, args []reflect.Value, before []any, results []reflect.Value) bool) {
 	t.Helper()
 	for _, c := range calls() {
 		for _, g := range givens() {
-			g = prepare(g)
-			before := snapshot(g)
-			arcs, numbers := c.run(g)
-			if !test(c, g, before, arcs, numbers) {
-				t.Errorf("%s with %v", c.name, before)
+			var args []reflect.Value
+			for _, arg := range c.args(g) {
+				args = append(args, copied(reflect.ValueOf(arg), roomy))
+			}
+			before := copies(args, wide)
+			results := reflect.ValueOf(c.run).Call(args)
+			if !test(c, args, before, results) {
+				t.Errorf("%s with %v", c.name, c.args(g))
 			}
 		}
 	}
 }
 
 func TestNoFunctionChangesAnArgument(t *testing.T) {
-	eachCall(t, func(c call, g given, before given, arcs []impl.Arc, numbers []int) bool {
-		return unchanged(g, before)
+	eachCall(t, func(c call, args []reflect.Value, before []any, results []reflect.Value) bool {
+		return reflect.DeepEqual(copies(args, wide), before)
 	})
 }
 
-func TestResultsStayWhenArgumentsChange(t *testing.T) {
-	eachCall(t, func(c call, g given, before given, arcs []impl.Arc, numbers []int) bool {
-		want := result{slices.Clone(arcs), slices.Clone(numbers)}
-		fill(g.net.Arcs, spoiltArc)
-		fill(g.walk, -7)
-		fill(g.rest, -7)
-		return want.same(arcs, numbers)
+func TestResultsShareNoMemoryWithArguments(t *testing.T) {
+	eachCall(t, func(c call, args []reflect.Value, before []any, results []reflect.Value) bool {
+		for _, a := range spansOf(args) {
+			for _, b := range spansOf(results) {
+				if shared(a, b) {
+					return false
+				}
+			}
+		}
+		return true
 	})
 }
 
-func TestArgumentsStayWhenResultsChange(t *testing.T) {
-	eachCall(t, func(c call, g given, before given, arcs []impl.Arc, numbers []int) bool {
-		fill(arcs, spoiltArc)
-		fill(numbers, -7)
-		return unchanged(g, before)
+func TestSlicesOfAResultShareNoMemory(t *testing.T) {
+	eachCall(t, func(c call, args []reflect.Value, before []any, results []reflect.Value) bool {
+		list := spansOf(results)
+		for i, a := range list {
+			for _, b := range list[:i] {
+				if shared(a, b) {
+					return false
+				}
+			}
+		}
+		return true
 	})
 }
 
 func TestNoStateIsKeptBetweenCalls(t *testing.T) {
-	eachCall(t, func(c call, g given, before given, arcs []impl.Arc, numbers []int) bool {
-		want := result{slices.Clone(arcs), slices.Clone(numbers)}
-		fill(arcs, spoiltArc)
-		fill(numbers, -7)
-		return want.same(c.run(g))
+	eachCall(t, func(c call, args []reflect.Value, before []any, results []reflect.Value) bool {
+		want := copies(results, exact)
+		// What a later call returns must not depend on what becomes of this result.
+		for _, v := range results {
+			holder := reflect.New(v.Type()).Elem()
+			holder.Set(v)
+			mark(holder)
+		}
+		return reflect.DeepEqual(copies(reflect.ValueOf(c.run).Call(args), exact), want)
 	})
 }
