@@ -151,15 +151,17 @@ func within(number int, most int) bool {
 	return number >= 0 && number <= most
 }
 
-// netHas says whether a net is ok and has all of these nodes.
-func netHas(n Net, nodes ...int) bool {
-	if !NetOk(n) {
-		return false
-	}
-	for _, node := range nodes {
-		if !within(node, n.Nodes-1) {
+// allWithin says whether all numbers are in 0..most.
+func allWithin(numbers []int, most int) bool {
+	for _, number := range numbers {
+		if !within(number, most) {
 			return false
 		}
 	}
 	return true
+}
+
+// netHas says whether a net is ok and has all of these nodes.
+func netHas(n Net, nodes ...int) bool {
+	return NetOk(n) && allWithin(nodes, n.Nodes-1)
 }

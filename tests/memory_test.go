@@ -19,6 +19,9 @@ type given struct {
 	other []impl.Step
 	steps []impl.Step
 	times [3]int
+	plan  impl.Plan
+	stops [2]int
+	trips int
 }
 
 // call is a function of the package, and which of the given arguments it takes.
@@ -29,7 +32,7 @@ type call struct {
 }
 
 func calls() []call {
-	return slices.Concat(netCalls(), turnCalls(), stairCalls())
+	return slices.Concat(netCalls(), turnCalls(), stairCalls(), planCalls())
 }
 
 // netCalls are the functions of chapters 1 to 3.
@@ -83,10 +86,23 @@ func stairCalls() []call {
 	}
 }
 
+// planCalls are the functions of chapters 6 and 7.
+func planCalls() []call {
+	return []call{
+		{"PlanOk", impl.PlanOk, func(g given) []any { return []any{g.plan} }},
+		{"PlanAll", impl.PlanAll, func(g given) []any { return []any{g.plan, g.stops[0], g.times[0]} }},
+		{"PlanStair", impl.PlanStair, func(g given) []any { return []any{g.plan, g.stops[0], g.stops[1]} }},
+		{"PlanLate", impl.PlanLate, func(g given) []any { return []any{g.plan, g.trips, g.times[0]} }},
+		{"PlanLate by nothing", impl.PlanLate, func(g given) []any { return []any{g.plan, g.trips, 0} }},
+		{"RoundAll", impl.RoundAll, func(g given) []any { return []any{g.plan, g.stops[0], g.times[0], g.trips} }},
+		{"RoundBest", impl.RoundBest, func(g given) []any { return []any{g.plan, g.stops[0], g.stops[1], g.times[0]} }},
+	}
+}
+
 // givens are arguments, with walks that have a common node, and some that are invalid.
 func givens() []given {
 	r := source()
-	stairs := validStairs()
+	stairs, plans := validStairs(), validPlans()
 	var list []given
 	for i, n := range validNets()[:60] {
 		w := wander(r, n, 0, impl.WalkMax)
@@ -96,12 +112,19 @@ func givens() []given {
 			stair: stairs[i], other: stairs[i+1], steps: scatteredSteps(r, i%9, impl.TimeMax), times: [3]int{i, 2 * i, 1 + i},
 		})
 	}
+	for i := 0; i < len(plans); i += 3 {
+		p := plans[i]
+		list = append(list, given{plan: p, stops: [2]int{i % p.Stops, (i + 1) % p.Stops}, trips: i % (impl.TripsMax + 1), times: [3]int{i % 15}})
+	}
 	list = append(list,
 		given{net: example(), walk: []int{0, 1, 3}, rest: []int{4, 2}, nodes: [2]int{0, 3}, turns: exampleTurns()},
 		given{net: example(), walk: []int{0, 9}, rest: []int{-1}, nodes: [2]int{4, 0}, turns: []impl.Turn{{In: 0, Out: 3}}},
 	)
 	for _, n := range invalidNets() {
 		list = append(list, given{net: n, walk: []int{0}, rest: []int{1}, nodes: [2]int{0, 1}, turns: exampleTurns()})
+	}
+	for _, p := range invalidPlans() {
+		list = append(list, given{plan: p, stops: [2]int{0, 1}, trips: 1})
 	}
 	for _, s := range invalidStairs() {
 		list = append(list, given{stair: s, other: stairs[1], steps: s}, given{stair: stairs[1], other: s, steps: s})
@@ -218,8 +241,9 @@ func shared(a span, b span) bool {
 // eachCall runs every function with all arguments, then a test with the arguments, how they were before, and the results.
 func eachCall(t *testing.T, test func(c call, args []reflect.Value, before []any, results []reflect.Value) bool) {
 	t.Helper()
+	list := givens()
 	for _, c := range calls() {
-		for _, g := range givens() {
+		for _, g := range list {
 			var args []reflect.Value
 			for _, arg := range c.args(g) {
 				args = append(args, copied(reflect.ValueOf(arg), roomy))
