@@ -22,6 +22,11 @@ type given struct {
 	plan  impl.Plan
 	stops [2]int
 	trips int
+	rank  impl.Rank
+	costs []int
+	high  []int
+	part  []int
+	list  []int
 }
 
 // call is a function of the package, and which of the given arguments it takes.
@@ -32,7 +37,7 @@ type call struct {
 }
 
 func calls() []call {
-	return slices.Concat(netCalls(), turnCalls(), stairCalls(), planCalls())
+	return slices.Concat(netCalls(), turnCalls(), stairCalls(), planCalls(), rankCalls(), partCalls())
 }
 
 // netCalls are the functions of chapters 1 to 3.
@@ -99,6 +104,37 @@ func planCalls() []call {
 	}
 }
 
+// rankCalls are the functions of chapters 8 and 9.
+func rankCalls() []call {
+	return []call{
+		{"RankOf", impl.RankOf, func(g given) []any { return []any{g.net, g.rank.Order} }},
+		{"RankOk", impl.RankOk, func(g given) []any { return []any{g.net, g.rank} }},
+		{"RankNear", impl.RankNear, func(g given) []any { return []any{g.net, g.rank, g.nodes[0], g.nodes[1]} }},
+		{"RankArc", impl.RankArc, func(g given) []any { return []any{g.net, g.rank, g.nodes[0], g.nodes[1]} }},
+		{"RankMany", impl.RankMany, func(g given) []any { return []any{g.net, g.rank} }},
+		{"CostNet", impl.CostNet, func(g given) []any { return []any{g.net, g.costs} }},
+		{"CostNet, its own costs", impl.CostNet, func(g given) []any { return []any{g.net, costsIn(g.net)} }},
+		{"CostOf", impl.CostOf, func(g given) []any { return []any{g.net, g.times[0], g.times[1]} }},
+		{"CostLift", impl.CostLift, func(g given) []any { return []any{g.net, g.high} }},
+		{"CostRank", impl.CostRank, func(g given) []any { return []any{g.net, g.rank, g.costs} }},
+		{"CostRank, the same costs", impl.CostRank, func(g given) []any { return []any{g.net, g.rank, costsIn(g.net)} }},
+	}
+}
+
+// partCalls are the functions of chapters 10 and 11.
+func partCalls() []call {
+	return []call{
+		{"PartEdges", impl.PartEdges, func(g given) []any { return []any{g.net, g.part} }},
+		{"PartOver", impl.PartOver, func(g given) []any { return []any{g.net, g.part} }},
+		{"PartNear", impl.PartNear, func(g given) []any { return []any{g.net, g.part, g.nodes[0], g.nodes[1]} }},
+		{"PartCut", impl.PartCut, func(g given) []any { return []any{g.net, g.part} }},
+		{"ManyAll", impl.ManyAll, func(g given) []any { return []any{g.net, g.list, g.rank.Order} }},
+		{"ManyAll, a list twice", impl.ManyAll, func(g given) []any { return []any{g.net, g.list, g.list} }},
+		{"ManyNear", impl.ManyNear, func(g given) []any { return []any{g.net, g.nodes[0], g.list} }},
+		{"ManyServe", impl.ManyServe, func(g given) []any { return []any{g.net, g.list} }},
+	}
+}
+
 // givens are arguments, with walks that have a common node, and some that are invalid.
 func givens() []given {
 	r := source()
@@ -110,6 +146,8 @@ func givens() []given {
 		list = append(list, given{
 			net: n, walk: w[:at], rest: w[at:], nodes: [2]int{0, n.Nodes - 1}, turns: someTurns(r, n, impl.TurnsMax),
 			stair: stairs[i], other: stairs[i+1], steps: scatteredSteps(r, i%9, impl.TimeMax), times: [3]int{i, 2 * i, 1 + i},
+			rank: impl.RankOf(n, r.Perm(n.Nodes)), costs: numbers(r, len(n.Arcs), impl.CostMax), high: someHeights(r, n)[i%(5+n.Nodes)],
+			part: numbers(r, n.Nodes, impl.PartsMax-1), list: numbers(r, i%(impl.NodesMax+1), n.Nodes-1),
 		})
 	}
 	for i := 0; i < len(plans); i += 3 {
@@ -121,7 +159,16 @@ func givens() []given {
 		given{net: example(), walk: []int{0, 9}, rest: []int{-1}, nodes: [2]int{4, 0}, turns: []impl.Turn{{In: 0, Out: 3}}},
 	)
 	for _, n := range invalidNets() {
-		list = append(list, given{net: n, walk: []int{0}, rest: []int{1}, nodes: [2]int{0, 1}, turns: exampleTurns()})
+		list = append(list, given{
+			net: n, walk: []int{0}, rest: []int{1}, nodes: [2]int{0, 1}, turns: exampleTurns(),
+			rank: impl.RankOf(example(), upTo(4)), costs: costsIn(n), high: upTo(4), part: upTo(4), list: []int{1, 0},
+		})
+	}
+	for _, rank := range invalidRanks(example(), impl.RankOf(example(), upTo(4))) {
+		list = append(list, given{net: example(), nodes: [2]int{1, 2}, rank: rank, costs: costsIn(example()), list: []int{0, 1}})
+	}
+	for _, numbers := range invalidNumbers(4, impl.CostMax) {
+		list = append(list, given{net: example(), rank: impl.RankOf(example(), upTo(4)), costs: numbers, high: numbers, part: numbers, list: numbers})
 	}
 	for _, p := range invalidPlans() {
 		list = append(list, given{plan: p, stops: [2]int{0, 1}, trips: 1})
