@@ -27,6 +27,9 @@ type given struct {
 	high  []int
 	part  []int
 	list  []int
+	many  int
+	seen  [][]int
+	where []int
 }
 
 // call is a function of the package, and which of the given arguments it takes.
@@ -37,7 +40,7 @@ type call struct {
 }
 
 func calls() []call {
-	return slices.Concat(netCalls(), turnCalls(), stairCalls(), planCalls(), rankCalls(), partCalls())
+	return slices.Concat(netCalls(), turnCalls(), stairCalls(), planCalls(), rankCalls(), partCalls(), markCalls(), someCalls())
 }
 
 // netCalls are the functions of chapters 1 to 3.
@@ -135,6 +138,34 @@ func partCalls() []call {
 	}
 }
 
+// markCalls are the functions of chapters 12 and 13.
+func markCalls() []call {
+	return []call{
+		{"MarkBound", impl.MarkBound, func(g given) []any { return []any{g.net, g.list, g.nodes[0], g.nodes[1]} }},
+		{"MarkNear", impl.MarkNear, func(g given) []any { return []any{g.net, g.list, g.nodes[0], g.nodes[1]} }},
+		{"MarkPick", impl.MarkPick, func(g given) []any { return []any{g.net, g.many} }},
+		{"MarkPick, all nodes", impl.MarkPick, func(g given) []any { return []any{g.net, g.net.Nodes} }},
+		{"ReachIn", impl.ReachIn, func(g given) []any { return []any{g.net, g.nodes[0], g.times[0]} }},
+		{"ReachArcs", impl.ReachArcs, func(g given) []any { return []any{g.net, g.nodes[0], g.times[0]} }},
+		{"ReachParts", impl.ReachParts, func(g given) []any { return []any{g.net} }},
+		{"ReachFar", impl.ReachFar, func(g given) []any { return []any{g.net} }},
+	}
+}
+
+// someCalls are the functions of chapters 14 and 15.
+func someCalls() []call {
+	return []call{
+		{"SomeWalks", impl.SomeWalks, func(g given) []any { return []any{g.net, g.nodes[0], g.nodes[1], g.many} }},
+		{"SomeWalks, all that are told", impl.SomeWalks, func(g given) []any { return []any{g.net, g.nodes[0], g.nodes[1], impl.SomeMax} }},
+		{"SomeShare", impl.SomeShare, func(g given) []any { return []any{g.net, g.walk, g.rest} }},
+		{"SomeShare, a walk twice", impl.SomeShare, func(g given) []any { return []any{g.net, g.walk, g.walk} }},
+		{"SomeOthers", impl.SomeOthers, func(g given) []any { return []any{g.net, g.nodes[0], g.nodes[1], g.times[1], g.times[0]} }},
+		{"SomeOthers, all of them", impl.SomeOthers, func(g given) []any { return []any{g.net, g.nodes[0], g.nodes[1], 200, 100} }},
+		{"SeenBest", impl.SeenBest, func(g given) []any { return []any{g.net, g.seen} }},
+		{"SeenCost", impl.SeenCost, func(g given) []any { return []any{g.net, g.seen, g.where} }},
+	}
+}
+
 // givens are arguments, with walks that have a common node, and some that are invalid.
 func givens() []given {
 	r := source()
@@ -143,11 +174,13 @@ func givens() []given {
 	for i, n := range validNets()[:60] {
 		w := wander(r, n, 0, impl.WalkMax)
 		at := r.IntN(len(w) + 1)
+		seen := observations(r, n, i%(impl.SeenMax+1), impl.CostMax)
 		list = append(list, given{
 			net: n, walk: w[:at], rest: w[at:], nodes: [2]int{0, n.Nodes - 1}, turns: someTurns(r, n, impl.TurnsMax),
 			stair: stairs[i], other: stairs[i+1], steps: scatteredSteps(r, i%9, impl.TimeMax), times: [3]int{i, 2 * i, 1 + i},
 			rank: impl.RankOf(n, r.Perm(n.Nodes)), costs: numbers(r, len(n.Arcs), impl.CostMax), high: someHeights(r, n)[i%(5+n.Nodes)],
 			part: numbers(r, n.Nodes, impl.PartsMax-1), list: numbers(r, i%(impl.NodesMax+1), n.Nodes-1),
+			many: i % (impl.NodesMax + 1), seen: seen, where: numbers(r, len(seen), n.Nodes-1),
 		})
 	}
 	for i := 0; i < len(plans); i += 3 {
@@ -162,6 +195,7 @@ func givens() []given {
 		list = append(list, given{
 			net: n, walk: []int{0}, rest: []int{1}, nodes: [2]int{0, 1}, turns: exampleTurns(),
 			rank: impl.RankOf(example(), upTo(4)), costs: costsIn(n), high: upTo(4), part: upTo(4), list: []int{1, 0},
+			many: 1, seen: [][]int{upTo(4)}, where: []int{1},
 		})
 	}
 	for _, rank := range invalidRanks(example(), impl.RankOf(example(), upTo(4))) {
@@ -169,6 +203,9 @@ func givens() []given {
 	}
 	for _, numbers := range invalidNumbers(4, impl.CostMax) {
 		list = append(list, given{net: example(), rank: impl.RankOf(example(), upTo(4)), costs: numbers, high: numbers, part: numbers, list: numbers})
+	}
+	for _, seen := range invalidSeen(example()) {
+		list = append(list, given{net: example(), seen: seen, where: make([]int, len(seen))})
 	}
 	for _, p := range invalidPlans() {
 		list = append(list, given{plan: p, stops: [2]int{0, 1}, trips: 1})
