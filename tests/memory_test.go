@@ -30,6 +30,9 @@ type given struct {
 	many  int
 	seen  [][]int
 	where []int
+	live  impl.Live
+	told  impl.News
+	tour  []int
 }
 
 // call is a function of the package, and which of the given arguments it takes.
@@ -40,7 +43,7 @@ type call struct {
 }
 
 func calls() []call {
-	return slices.Concat(netCalls(), turnCalls(), stairCalls(), planCalls(), rankCalls(), partCalls(), markCalls(), someCalls())
+	return slices.Concat(netCalls(), turnCalls(), stairCalls(), planCalls(), rankCalls(), partCalls(), markCalls(), someCalls(), liveCalls(), loadCalls())
 }
 
 // netCalls are the functions of chapters 1 to 3.
@@ -166,43 +169,103 @@ func someCalls() []call {
 	}
 }
 
-// givens are arguments, with walks that have a common node, and some that are invalid.
+// liveCalls are the functions of chapters 16 and 17.
+func liveCalls() []call {
+	return []call{
+		{"LiveOk", impl.LiveOk, func(g given) []any { return []any{g.live} }},
+		{"LiveNow", impl.LiveNow, func(g given) []any { return []any{g.live} }},
+		{"LiveNow without incidents", impl.LiveNow, func(g given) []any { return []any{impl.Live{Net: g.net}} }},
+		{"LiveTell", impl.LiveTell, func(g given) []any { return []any{g.live, g.told} }},
+		{"LiveTell of what is invalid", impl.LiveTell, func(g given) []any { return []any{g.live, impl.News{}} }},
+		{"LiveTell of the first one", impl.LiveTell, func(g given) []any { return []any{g.live, firstNews(g)} }},
+		{"LiveOver", impl.LiveOver, func(g given) []any { return []any{g.live, firstNews(g).Id} }},
+		{"LiveOver of nothing", impl.LiveOver, func(g given) []any { return []any{g.live, 0} }},
+		{"LiveNear", impl.LiveNear, func(g given) []any { return []any{g.live, g.nodes[0], g.nodes[1]} }},
+		{"TourCost", impl.TourCost, func(g given) []any { return []any{g.net, g.tour} }},
+		{"TourBest", impl.TourBest, func(g given) []any { return []any{g.net, g.tour} }},
+		{"TourBest of one stop", impl.TourBest, func(g given) []any { return []any{g.net, []int{g.nodes[0]}} }},
+		{"TourNear", impl.TourNear, func(g given) []any { return []any{g.net, g.tour} }},
+		{"TourNear of one stop", impl.TourNear, func(g given) []any { return []any{g.net, []int{g.nodes[0]}} }},
+	}
+}
+
+// firstNews is the first one of the incidents, or another one if there is none.
+func firstNews(g given) impl.News {
+	if len(g.live.News) == 0 {
+		return g.told
+	}
+	return g.live.News[0]
+}
+
+// loadCalls are the functions of chapters 18 to 20.
+func loadCalls() []call {
+	return []call{
+		{"LoadNet", impl.LoadNet, func(g given) []any { return []any{g.net, g.many} }},
+		{"LoadNet, all arcs", impl.LoadNet, func(g given) []any { return []any{g.net, 0} }},
+		{"LoadAll", impl.LoadAll, func(g given) []any { return []any{g.net, g.nodes[0]} }},
+		{"LoadWalk", impl.LoadWalk, func(g given) []any { return []any{g.net, g.nodes[0], g.nodes[1], g.many} }},
+		{"LoadWalk, all arcs", impl.LoadWalk, func(g given) []any { return []any{g.net, g.nodes[0], g.nodes[1], 0} }},
+		{"PairAll", impl.PairAll, func(g given) []any { return []any{g.net, g.nodes[0], g.nodes[1]} }},
+		{"PairWith", impl.PairWith, func(g given) []any { return []any{g.net, g.nodes[0], g.nodes[1], g.times[0]} }},
+		{"PairSum", impl.PairSum, func(g given) []any { return []any{g.net, g.nodes[0], g.nodes[1], g.times[0], g.times[1]} }},
+		{"BothNear", impl.BothNear, func(g given) []any { return []any{g.net, g.nodes[0], g.nodes[1]} }},
+		{"BothOver", impl.BothOver, func(g given) []any { return []any{g.net, g.nodes[0], g.nodes[1], g.nodes[0]} }},
+	}
+}
+
+// givens are arguments, valid ones and some that are invalid.
 func givens() []given {
+	return slices.Concat(netGivens(), planGivens(), invalidGivens(), invalidListGivens())
+}
+
+// netGivens are valid arguments in graphs, with walks that have a common node.
+func netGivens() []given {
 	r := source()
-	stairs, plans := validStairs(), validPlans()
+	stairs := validStairs()
 	var list []given
 	for i, n := range validNets()[:60] {
 		w := wander(r, n, 0, impl.WalkMax)
 		at := r.IntN(len(w) + 1)
 		seen := observations(r, n, i%(impl.SeenMax+1), impl.CostMax)
+		lives := someLives(r, n)
 		list = append(list, given{
 			net: n, walk: w[:at], rest: w[at:], nodes: [2]int{0, n.Nodes - 1}, turns: someTurns(r, n, impl.TurnsMax),
 			stair: stairs[i], other: stairs[i+1], steps: scatteredSteps(r, i%9, impl.TimeMax), times: [3]int{i, 2 * i, 1 + i},
 			rank: impl.RankOf(n, r.Perm(n.Nodes)), costs: numbers(r, len(n.Arcs), impl.CostMax), high: someHeights(r, n)[i%(5+n.Nodes)],
 			part: numbers(r, n.Nodes, impl.PartsMax-1), list: numbers(r, i%(impl.NodesMax+1), n.Nodes-1),
 			many: i % (impl.NodesMax + 1), seen: seen, where: numbers(r, len(seen), n.Nodes-1),
+			live: lives[i%len(lives)], told: impl.News{Id: 1 + 16*i, More: i%3 - 1}, tour: r.Perm(n.Nodes)[:min(n.Nodes, 1+i%impl.TourMax)],
 		})
 	}
-	for i := 0; i < len(plans); i += 3 {
-		p := plans[i]
-		list = append(list, given{plan: p, stops: [2]int{i % p.Stops, (i + 1) % p.Stops}, trips: i % (impl.TripsMax + 1), times: [3]int{i % 15}})
-	}
-	list = append(list,
+	return append(list,
 		given{net: example(), walk: []int{0, 1, 3}, rest: []int{4, 2}, nodes: [2]int{0, 3}, turns: exampleTurns()},
 		given{net: example(), walk: []int{0, 9}, rest: []int{-1}, nodes: [2]int{4, 0}, turns: []impl.Turn{{In: 0, Out: 3}}},
 	)
+}
+
+// planGivens are valid arguments in timetables.
+func planGivens() []given {
+	var list []given
+	for i, p := range validPlans() {
+		if i%3 == 0 {
+			list = append(list, given{plan: p, stops: [2]int{i % p.Stops, (i + 1) % p.Stops}, trips: i % (impl.TripsMax + 1), times: [3]int{i % 15}})
+		}
+	}
+	return list
+}
+
+// invalidGivens are invalid graphs, hierarchies, observations, timetables and incidents.
+func invalidGivens() []given {
+	var list []given
 	for _, n := range invalidNets() {
 		list = append(list, given{
 			net: n, walk: []int{0}, rest: []int{1}, nodes: [2]int{0, 1}, turns: exampleTurns(),
 			rank: impl.RankOf(example(), upTo(4)), costs: costsIn(n), high: upTo(4), part: upTo(4), list: []int{1, 0},
-			many: 1, seen: [][]int{upTo(4)}, where: []int{1},
+			many: 1, seen: [][]int{upTo(4)}, where: []int{1}, live: impl.Live{Net: n}, told: impl.News{Id: 1}, tour: []int{1, 0},
 		})
 	}
 	for _, rank := range invalidRanks(example(), impl.RankOf(example(), upTo(4))) {
 		list = append(list, given{net: example(), nodes: [2]int{1, 2}, rank: rank, costs: costsIn(example()), list: []int{0, 1}})
-	}
-	for _, numbers := range invalidNumbers(4, impl.CostMax) {
-		list = append(list, given{net: example(), rank: impl.RankOf(example(), upTo(4)), costs: numbers, high: numbers, part: numbers, list: numbers})
 	}
 	for _, seen := range invalidSeen(example()) {
 		list = append(list, given{net: example(), seen: seen, where: make([]int, len(seen))})
@@ -210,6 +273,25 @@ func givens() []given {
 	for _, p := range invalidPlans() {
 		list = append(list, given{plan: p, stops: [2]int{0, 1}, trips: 1})
 	}
+	for _, l := range invalidLives() {
+		list = append(list, given{live: l, told: impl.News{Id: 3}, nodes: [2]int{0, 1}})
+	}
+	return list
+}
+
+// invalidListGivens are invalid lists of numbers, stops and profiles, and incidents that are refused.
+func invalidListGivens() []given {
+	var list []given
+	for _, numbers := range invalidNumbers(4, impl.CostMax) {
+		list = append(list, given{net: example(), rank: impl.RankOf(example(), upTo(4)), costs: numbers, high: numbers, part: numbers, list: numbers})
+	}
+	for _, stops := range invalidStops(example()) {
+		list = append(list, given{net: example(), tour: stops, many: impl.LoadMax + 1})
+	}
+	for _, w := range invalidNews(len(example().Arcs)) {
+		list = append(list, given{live: impl.Live{Net: example(), News: newsOf(1, 2, 3)}, told: w})
+	}
+	stairs := validStairs()
 	for _, s := range invalidStairs() {
 		list = append(list, given{stair: s, other: stairs[1], steps: s}, given{stair: stairs[1], other: s, steps: s})
 	}
