@@ -98,8 +98,8 @@ func NetGet(s string) (Net, bool) {
 		}
 		n.Arcs = append(n.Arcs, a)
 	}
-	// A net has exactly one encoding: comparing with it rejects signs,
-	// leading zeros and a missing newline, which are read above.
+	// A net has exactly one encoding: comparing with it rejects how else
+	// the number of nodes can be written, and a missing newline.
 	if !NetOk(n) || NetPut(n) != s {
 		return Net{}, false
 	}
@@ -118,21 +118,26 @@ func arcPut(a Arc) string {
 		strconv.Itoa(a.Toll) + " " + strconv.Itoa(a.Load) + "\n"
 }
 
-// arcGet reads an arc from a line without its newline. It takes more than arcPut writes.
+// arcGet reads an arc, which need not be ok, from a line without its newline.
 func arcGet(line string) (Arc, bool) {
-	var numbers [5]int
-	words := strings.Split(line, " ")
-	if len(words) != len(numbers) {
+	numbers, ok := numbersGet(strings.Split(line, " "))
+	if !ok || len(numbers) != 5 {
 		return Arc{}, false
 	}
-	for i, word := range words {
-		number, err := strconv.Atoi(word)
-		if err != nil {
-			return Arc{}, false
-		}
-		numbers[i] = number
-	}
 	return Arc{From: numbers[0], To: numbers[1], Cost: numbers[2], Toll: numbers[3], Load: numbers[4]}, true
+}
+
+// numbersGet reads words that are numbers, without leading zeros or needless signs.
+func numbersGet(words []string) ([]int, bool) {
+	var numbers []int
+	for _, word := range words {
+		number, err := strconv.Atoi(word)
+		if err != nil || strconv.Itoa(number) != word {
+			return nil, false
+		}
+		numbers = append(numbers, number)
+	}
+	return numbers, true
 }
 
 // arcsFrom yields the arcs that begin at a node, in ascending order.

@@ -3,6 +3,7 @@ package tests
 import (
 	"reflect"
 	"slices"
+	"strings"
 	"testing"
 
 	"loop.example/waymark/impl"
@@ -33,6 +34,10 @@ type given struct {
 	live  impl.Live
 	told  impl.News
 	tour  []int
+	event impl.Event
+	jour  string
+	bytes int
+	lines []string
 }
 
 // call is a function of the package, and which of the given arguments it takes.
@@ -43,7 +48,7 @@ type call struct {
 }
 
 func calls() []call {
-	return slices.Concat(netCalls(), turnCalls(), stairCalls(), planCalls(), rankCalls(), partCalls(), markCalls(), someCalls(), liveCalls(), loadCalls())
+	return slices.Concat(netCalls(), turnCalls(), stairCalls(), planCalls(), rankCalls(), partCalls(), markCalls(), someCalls(), liveCalls(), loadCalls(), fileCalls())
 }
 
 // netCalls are the functions of chapters 1 to 3.
@@ -213,6 +218,27 @@ func loadCalls() []call {
 	}
 }
 
+// fileCalls are the functions of chapters 21 and 22.
+func fileCalls() []call {
+	return []call{
+		{"Crc", impl.Crc, func(g given) []any { return []any{g.jour} }},
+		{"EventOk", impl.EventOk, func(g given) []any { return []any{g.event} }},
+		{"EventPut", impl.EventPut, func(g given) []any { return []any{g.event} }},
+		{"EventGet", impl.EventGet, func(g given) []any { return []any{impl.EventPut(g.event)} }},
+		{"LiveDo", impl.LiveDo, func(g given) []any { return []any{g.live, g.event} }},
+		{"LiveDo of what is invalid", impl.LiveDo, func(g given) []any { return []any{g.live, impl.Event{}} }},
+		{"LiveDo of the first one", impl.LiveDo, func(g given) []any { return []any{g.live, impl.Event{News: firstNews(g)}} }},
+		{"LiveDo of the end of the first one", impl.LiveDo, func(g given) []any { return []any{g.live, over(firstNews(g).Id)} }},
+		{"LiveDo of the end of nothing", impl.LiveDo, func(g given) []any { return []any{g.live, over(impl.NewsIdMax)} }},
+		{"JourRead", impl.JourRead, func(g given) []any { return []any{g.net, g.jour} }},
+		{"JourRead of nothing", impl.JourRead, func(g given) []any { return []any{g.net, ""} }},
+		{"JourRead, cut off", impl.JourRead, func(g given) []any { return []any{g.net, g.jour[:len(g.jour)/2]} }},
+		{"JourAdd", impl.JourAdd, func(g given) []any { return []any{g.net, g.jour, g.event} }},
+		{"JourTear", impl.JourTear, func(g given) []any { return []any{g.net, g.jour, g.event, g.bytes} }},
+		{"Session", impl.Session, func(g given) []any { return []any{g.net, g.lines} }},
+	}
+}
+
 // givens are arguments, valid ones and some that are invalid.
 func givens() []given {
 	return slices.Concat(netGivens(), planGivens(), invalidGivens(), invalidListGivens())
@@ -228,6 +254,7 @@ func netGivens() []given {
 		at := r.IntN(len(w) + 1)
 		seen := observations(r, n, i%(impl.SeenMax+1), impl.CostMax)
 		lives := someLives(r, n)
+		jour, _ := someJournal(r, n, i%9)
 		list = append(list, given{
 			net: n, walk: w[:at], rest: w[at:], nodes: [2]int{0, n.Nodes - 1}, turns: someTurns(r, n, impl.TurnsMax),
 			stair: stairs[i], other: stairs[i+1], steps: scatteredSteps(r, i%9, impl.TimeMax), times: [3]int{i, 2 * i, 1 + i},
@@ -235,6 +262,7 @@ func netGivens() []given {
 			part: numbers(r, n.Nodes, impl.PartsMax-1), list: numbers(r, i%(impl.NodesMax+1), n.Nodes-1),
 			many: i % (impl.NodesMax + 1), seen: seen, where: numbers(r, len(seen), n.Nodes-1),
 			live: lives[i%len(lives)], told: impl.News{Id: 1 + 16*i, More: i%3 - 1}, tour: r.Perm(n.Nodes)[:min(n.Nodes, 1+i%impl.TourMax)],
+			event: someEvent(r, n), jour: jour, bytes: i, lines: someLines(r, n, i),
 		})
 	}
 	return append(list,
@@ -262,6 +290,7 @@ func invalidGivens() []given {
 			net: n, walk: []int{0}, rest: []int{1}, nodes: [2]int{0, 1}, turns: exampleTurns(),
 			rank: impl.RankOf(example(), upTo(4)), costs: costsIn(n), high: upTo(4), part: upTo(4), list: []int{1, 0},
 			many: 1, seen: [][]int{upTo(4)}, where: []int{1}, live: impl.Live{Net: n}, told: impl.News{Id: 1}, tour: []int{1, 0},
+			event: told(1, 0, -1), jour: recordOf(told(2, 1, 3)), bytes: 5, lines: []string{"news", "shut 1 0"},
 		})
 	}
 	for _, rank := range invalidRanks(example(), impl.RankOf(example(), upTo(4))) {
@@ -274,7 +303,7 @@ func invalidGivens() []given {
 		list = append(list, given{plan: p, stops: [2]int{0, 1}, trips: 1})
 	}
 	for _, l := range invalidLives() {
-		list = append(list, given{live: l, told: impl.News{Id: 3}, nodes: [2]int{0, 1}})
+		list = append(list, given{live: l, told: impl.News{Id: 3}, nodes: [2]int{0, 1}, event: over(3)})
 	}
 	return list
 }
@@ -288,9 +317,17 @@ func invalidListGivens() []given {
 	for _, stops := range invalidStops(example()) {
 		list = append(list, given{net: example(), tour: stops, many: impl.LoadMax + 1})
 	}
+	live := impl.Live{Net: example(), News: newsOf(1, 2, 3)}
 	for _, w := range invalidNews(len(example().Arcs)) {
-		list = append(list, given{live: impl.Live{Net: example(), News: newsOf(1, 2, 3)}, told: w})
+		list = append(list, given{live: live, told: w})
 	}
+	for _, e := range invalidEvents() {
+		list = append(list, given{net: example(), live: live, event: e, jour: recordOf(told(5, 1, 2)), bytes: -1})
+	}
+	list = append(list,
+		given{net: example(), event: over(5), jour: recordOf(told(5, 1, 2)) + record("1", "over 5"), bytes: impl.JourMax, lines: []string{"shut 3 9", "over 5"}},
+		given{net: example(), event: over(1), jour: strings.Repeat("x", impl.JourMax+1), lines: noEvents()},
+	)
 	stairs := validStairs()
 	for _, s := range invalidStairs() {
 		list = append(list, given{stair: s, other: stairs[1], steps: s}, given{stair: stairs[1], other: s, steps: s})
